@@ -315,10 +315,15 @@ func someCondLists() [][]impl.Cond {
 	}
 }
 
-func copyConds(list []impl.Cond) []impl.Cond {
-	made := []impl.Cond{}
-	for _, c := range list {
-		made = append(made, cond(strings.Clone(c.Column), c.Func, append([]impl.Atom{}, c.Value...)...))
+// asked is a condition or a mutation, which have the same parts.
+type asked interface{ impl.Cond | impl.Mut }
+
+// copyAsked answers a list that is alike and shares nothing; its lists are not nil.
+func copyAsked[T asked](list []T) []T {
+	made := []T{}
+	for _, item := range list {
+		c := impl.Cond(item)
+		made = append(made, T(cond(strings.Clone(c.Column), c.Func, append([]impl.Atom{}, c.Value...)...)))
 	}
 	return made
 }
@@ -331,7 +336,7 @@ func TestPromise1ConditionsAlikeAnswers(t *testing.T) {
 				impl.SelectIds(schema(askedTable()), store(9, rows(askedRow(7, "one", intAtom(1)))), 0, conds(cond("one", impl.CoLt, intAtom(9))))
 				impl.MatchesAll(askedTable(), askedRow(7, "many"), conds(cond("x", impl.CoEq)))
 				impl.FuncWord(99)
-				second := condAnswers(copySchema(s), copyStore(x), copyConds(list))
+				second := condAnswers(copySchema(s), copyStore(x), copyAsked(list))
 				if !reflect.DeepEqual(first, second) {
 					t.Errorf("%s and %s: %s, then %s", brief(x), brief(list), brief(first), brief(second))
 				}
@@ -340,20 +345,22 @@ func TestPromise1ConditionsAlikeAnswers(t *testing.T) {
 	}
 }
 
-// roomyConds answers a list that is alike and shares nothing, its lists with room behind their ends where something stands.
-func roomyConds(list []impl.Cond) []impl.Cond {
-	made := []impl.Cond{}
-	for _, c := range list {
-		made = append(made, impl.Cond{Column: c.Column, Func: c.Func, Value: withRoom(c.Value)})
+// roomyAsked answers a list that is alike and shares nothing, its lists with room behind their ends where something stands.
+func roomyAsked[T asked](list []T) []T {
+	made := []T{}
+	for _, item := range list {
+		c := impl.Cond(item)
+		made = append(made, T(cond(c.Column, c.Func, withRoom(c.Value)...)))
 	}
-	return append(made, cond("behind", impl.CoEq), impl.Cond{})[:len(made)]
+	return append(made, T(cond("behind", 1)), T(cond("", 0)))[:len(made)]
 }
 
-// wholeConds answers a copy of a list with all that stands behind its lists' ends.
-func wholeConds(list []impl.Cond) []impl.Cond {
-	made := []impl.Cond{}
-	for _, c := range list[:cap(list)] {
-		made = append(made, impl.Cond{Column: c.Column, Func: c.Func, Value: append(atoms(), c.Value[:cap(c.Value)]...)})
+// wholeAsked answers a copy of a list with all that stands behind its lists' ends.
+func wholeAsked[T asked](list []T) []T {
+	made := []T{}
+	for _, item := range list[:cap(list)] {
+		c := impl.Cond(item)
+		made = append(made, T(cond(c.Column, c.Func, append(atoms(), c.Value[:cap(c.Value)]...)...)))
 	}
 	return made
 }
@@ -363,10 +370,10 @@ func TestPromise1ConditionsStay(t *testing.T) {
 	before := kept(s)
 	for _, x := range someStores() {
 		for _, list := range someCondLists() {
-			roomyX, roomyList := roomyStore(x), roomyConds(list)
-			wholeX, wholeList := wholeStore(roomyX), wholeConds(roomyList)
+			roomyX, roomyList := roomyStore(x), roomyAsked(list)
+			wholeX, wholeList := wholeStore(roomyX), wholeAsked(roomyList)
 			roomy := condAnswers(s, roomyX, roomyList)
-			if !reflect.DeepEqual(wholeStore(roomyX), wholeX) || !reflect.DeepEqual(wholeConds(roomyList), wholeList) {
+			if !reflect.DeepEqual(wholeStore(roomyX), wholeX) || !reflect.DeepEqual(wholeAsked(roomyList), wholeList) {
 				t.Fatalf("%s or %s was changed", brief(x), brief(list))
 			}
 			if tight := condAnswers(s, x, list); !reflect.DeepEqual(roomy, tight) {

@@ -53,35 +53,37 @@ func selectIs(t *testing.T, what string, s impl.Schema, x impl.Store, table int,
 	}
 }
 
-func TestFunctionsAndTheirWords(t *testing.T) {
-	words := strings.Fields("== != < <= > >= includes excludes")
-	functions := []int{impl.CoEq, impl.CoNe, impl.CoLt, impl.CoLe, impl.CoGt, impl.CoGe, impl.CoIncludes, impl.CoExcludes}
-	for i, word := range words {
+// wordsAre tells that functions are numbered from 1 on, each by its word, and that other numbers and words are none.
+func wordsAre(t *testing.T, words string, functions []int, wordOf func(n int) string, numberOf func(word string) int, others ...string) {
+	t.Helper()
+	for i, word := range strings.Fields(words) {
 		if functions[i] != i+1 {
 			t.Errorf("the number of %s is %d", word, functions[i])
 		}
-		if got := impl.FuncWord(i + 1); got != word {
-			t.Errorf("FuncWord(%d) is %q, not %q", i+1, got, word)
+		if got := wordOf(i + 1); got != word {
+			t.Errorf("the word of %d is %q, not %q", i+1, got, word)
 		}
-		if got := impl.FuncOf(word); got != i+1 {
-			t.Errorf("FuncOf(%q) is %d, not %d", word, got, i+1)
+		if got := numberOf(word); got != i+1 {
+			t.Errorf("the function of %q is %d, not %d", word, got, i+1)
 		}
-		for _, other := range []string{word + " ", " " + word, word + "\x00", word + word, word[:len(word)-1] + "~", strings.Repeat(word, impl.MaxText)} {
-			if got := impl.FuncOf(other); got != 0 {
-				t.Errorf("FuncOf(%.20q) is %d", other, got)
-			}
+		others = append(others, word+" ", " "+word, word+"\x00", word+word, word[:len(word)-1]+"~", strings.ToUpper(word)+"!", strings.Repeat(word, impl.MaxText))
+	}
+	count := len(functions)
+	for _, n := range []int{math.MinInt, -count - 1, -count, -1, 0, count + 1, count + 2, 1 << 32, 1<<32 + 1, math.MaxInt} {
+		if got := wordOf(n); got != "" {
+			t.Errorf("the word of %d is %q", n, got)
 		}
 	}
-	for _, n := range []int{math.MinInt, -9, -8, -1, 0, 9, 10, 1 << 32, 1<<32 + 1, math.MaxInt} {
-		if got := impl.FuncWord(n); got != "" {
-			t.Errorf("FuncWord(%d) is %q", n, got)
+	for _, word := range append(others, "", "=", "1", "ok", "\xff", strings.Repeat("a", impl.MaxText), strings.Repeat("a", impl.MaxText+1)) {
+		if got := numberOf(word); got != 0 {
+			t.Errorf("the function of %.20q is %d", word, got)
 		}
 	}
-	for _, word := range []string{"", "=", "!", "===", "=<", "=>", "<>", "Includes", "INCLUDES", "include", "exclude", "excludes!", "+=", "insert", "1", "ok", "\xff", strings.Repeat("a", impl.MaxText), strings.Repeat("a", impl.MaxText+1)} {
-		if got := impl.FuncOf(word); got != 0 {
-			t.Errorf("FuncOf(%.20q) is %d", word, got)
-		}
-	}
+}
+
+func TestFunctionsAndTheirWords(t *testing.T) {
+	functions := []int{impl.CoEq, impl.CoNe, impl.CoLt, impl.CoLe, impl.CoGt, impl.CoGe, impl.CoIncludes, impl.CoExcludes}
+	wordsAre(t, "== != < <= > >= includes excludes", functions, impl.FuncWord, impl.FuncOf, "!", "===", "=<", "=>", "<>", "Includes", "INCLUDES", "include", "exclude", "+=", "insert", "delete")
 }
 
 // askedTable has columns of all kinds: numbers of at most one, of just one and of several.
