@@ -39,7 +39,12 @@ var endlessName = strings.Repeat("n", impl.MaxText+1)
 
 // namedColumns are texts that a mutation's Column may have.
 func namedColumns(own string) []string {
-	return []string{own, "", "x", "_uuid", "9", "\xff", endlessName[:impl.MaxName], endlessName[:impl.MaxName+1], endlessName}
+	return []string{own, "", "x", "_uuid", "9", "\xff", endlessName[:impl.MaxName], strings.Repeat("+", impl.MaxName)}
+}
+
+// longColumns are texts that no mutation's Column may have.
+func longColumns() []string {
+	return []string{endlessName[:impl.MaxName+1], endlessName[:68], strings.Repeat("+", 178), strings.Repeat("\xff", impl.MaxName+1), endlessName[:impl.MaxText], endlessName}
 }
 
 // mutCodeIs tells what MutCode answers.
@@ -50,7 +55,22 @@ func mutCodeIs(t *testing.T, what string, x impl.Table, m impl.Mut, want, wantCo
 	}
 }
 
-// mutatedIs tells what Mutate answers, whatever the mutation's Column, and MutateRow of a row that has that set among others.
+// longColumnIsBad tells that Mutate answers ErrBad of a Column that is too long, whatever else there is, but for a set that is too long.
+func longColumnIsBad(t *testing.T, what string, c impl.Column, d []impl.Atom, m impl.Mut) {
+	t.Helper()
+	want := impl.ErrBad
+	if len(d) > impl.MaxList {
+		want = impl.ErrLong
+	}
+	for _, name := range longColumns() {
+		m.Column = name
+		if got, code := impl.Mutate(c, d, m); len(got) != 0 || code != want {
+			t.Errorf("%s: Mutate(%s, %s, %s) with a Column of %d bytes is %s, %d, not nothing, %d", what, brief(c), brief(d), impl.MutWord(m.Func), len(name), brief(got), code, want)
+		}
+	}
+}
+
+// mutatedIs tells what Mutate answers, whatever the mutation's Column if it is not too long, and MutateRow of a row that has that set among others.
 func mutatedIs(t *testing.T, what string, c impl.Column, d []impl.Atom, m impl.Mut, want []impl.Atom, wantCode int) {
 	t.Helper()
 	for _, name := range namedColumns(c.Name) {
@@ -59,6 +79,7 @@ func mutatedIs(t *testing.T, what string, c impl.Column, d []impl.Atom, m impl.M
 			t.Errorf("%s: Mutate(%s, %s, %s) is %s, %d, not %s, %d", what, brief(c), brief(d), brief(m), brief(got), code, brief(want), wantCode)
 		}
 	}
+	longColumnIsBad(t, what, c, d, m)
 	if fit, code := impl.Fits(c, d); fit != impl.OK || code != impl.OK {
 		return
 	}
@@ -401,6 +422,39 @@ func TestWrongMutations(t *testing.T) {
 		}
 		mutatedIs(t, what, wideColumn(8), ints(0, 8), m, nil, impl.ErrBad)
 		mutatedIs(t, what+", a long set", wideColumn(8), ints(0, impl.MaxList+1), m, nil, impl.ErrLong)
+	}
+}
+
+// A Column of more than MaxName bytes is ErrBad in each call, ahead of all that the mutation would come to; one of MaxName bytes is what the calls make of it.
+func TestMutationsOfLongColumns(t *testing.T) {
+	few, bound, ref := called(intColumn(0, 3, -100, 100), "c"), called(intColumn(1, 3, 1, 2), "ta"), called(refColumn(2, "port", false), "anme")
+	for _, c := range []struct {
+		what   string
+		column impl.Column
+		d      []impl.Atom
+		m      impl.Mut
+		want   []impl.Atom
+		code   int
+	}{
+		{"a sum", few, numbersOf(5), mut("", impl.MuAdd, intAtom(2)), numbersOf(7), impl.OK},
+		{"a set that nothing is taken of", ref, ids(4), mut("", impl.MuDelete, ids(3, 5)...), ids(4), impl.OK},
+		{"rows that join", ref, ids(4), mut("", impl.MuInsert, ids(3)...), ids(3, 4), impl.OK},
+		{"a number of nothing", few, nil, mut("", impl.MuMod, intAtom(0)), nil, impl.OK},
+		{"below the bounds", bound, numbersOf(2), mut("", impl.MuDiv, intAtom(3)), nil, impl.ErrRange},
+		{"by 0", few, numbersOf(5), mut("", impl.MuDiv, intAtom(0)), nil, impl.ErrRange},
+		{"no number", few, numbersOf(5), mut("", impl.MuMul, intAtom(top)), nil, impl.ErrRange},
+		{"too many", ref, ids(4), mut("", impl.MuInsert, ids(3, 5)...), nil, impl.ErrMany},
+		{"too few", bound, numbersOf(2), mut("", impl.MuDelete, intAtom(2)), nil, impl.ErrMany},
+		{"another kind", few, numbersOf(5), mut("", impl.MuInsert, textAtom("a")), nil, impl.ErrType},
+		{"several numbers", few, numbersOf(5), mut("", impl.MuSub, ints(1, 3)...), nil, impl.ErrType},
+		{"a set that does not fit", bound, numbersOf(3), mut("", impl.MuSub, intAtom(1)), nil, impl.ErrBad},
+	} {
+		mutatedIs(t, c.what, c.column, c.d, c.m, c.want, c.code)
+		for _, name := range longColumns() {
+			c.m.Column = name
+			mutCodeIs(t, c.what, table("t", c.column), c.m, impl.OK, impl.ErrBad)
+			rowIs(t, c.what, table("t", c.column), row(7, c.d), muts(c.m), impl.Row{}, impl.ErrBad)
+		}
 	}
 }
 
