@@ -146,10 +146,15 @@ func appendQuoted(to []byte, t string) []byte {
 }
 
 // ParseJson answers the value of a text.
-func ParseJson(t string) (j Json, code int) {
+func ParseJson(t string) (Json, int) {
 	if len(t) > MaxText {
 		return Json{}, ErrLong
 	}
+	return parsed(t)
+}
+
+// parsed answers the value of a text, however long that is.
+func parsed(t string) (j Json, code int) {
 	defer func() {
 		if recover() != nil {
 			j, code = Json{}, ErrForm
